@@ -7,6 +7,7 @@ import (
 
 	"bindery/api"
 	"bindery/letters"
+	"bindery/samples"
 )
 
 const (
@@ -22,23 +23,6 @@ func eachByte(yield func(string) bool) {
 			return
 		}
 	}
-}
-
-// texts tells all texts of at most so many of the signs.
-func texts(signs []string, length int) []string {
-	all := []string{""}
-	last := all
-	for range length {
-		var next []string
-		for _, s := range last {
-			for _, c := range signs {
-				next = append(next, s+c)
-			}
-		}
-		all = append(all, next...)
-		last = next
-	}
-	return all
 }
 
 // P1.1.
@@ -169,7 +153,7 @@ func orderOf(a, b string) int {
 
 // P1.2 and P1.5: the other way about, and the same text alone.
 func TestOrderOfTwo(t *testing.T) {
-	l := texts([]string{"a", "A", "b", "1", "-", " ", "\xc3"}, 3)
+	l := samples.Texts([]string{"a", "A", "b", "1", "-", " ", "\xc3"}, 3)
 	for _, a := range l {
 		for _, b := range l {
 			got := letters.Order(a, b)
@@ -188,7 +172,7 @@ func TestOrderOfTwo(t *testing.T) {
 
 // P1.5: it goes on.
 func TestOrderOfThree(t *testing.T) {
-	l := texts([]string{"a", "B", "2", "-", "\xff"}, 2)
+	l := samples.Texts([]string{"a", "B", "2", "-", "\xff"}, 2)
 	for _, a := range l {
 		for _, b := range l {
 			for _, c := range l {
@@ -318,7 +302,7 @@ func TestWordsAreNew(t *testing.T) {
 
 // P1.4: no words are lost, and none made.
 func TestWordsTogether(t *testing.T) {
-	for _, s := range texts([]string{"a", "é", "\xff", " ", "\t", "\n"}, 4) {
+	for _, s := range samples.Texts([]string{"a", "é", "\xff", " ", "\t", "\n"}, 4) {
 		got := letters.Words(s)
 		bare := strings.NewReplacer(" ", "", "\t", "", "\n", "").Replace(s)
 		if strings.Join(got, "") != bare || slices.Contains(got, "") {
