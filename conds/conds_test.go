@@ -709,6 +709,21 @@ func TestFillOfLongTexts(t *testing.T) {
 	}
 }
 
+// P4.4: many attributes, each name there twice, and all of them asked for.
+func TestFillOfManyAttributes(t *testing.T) {
+	var text, want strings.Builder
+	l := many(50000)
+	for _, a := range slices.Backward(l) {
+		text.WriteString("{" + a.Name + "}")
+		want.WriteString(a.Value)
+		l = append(l, api.Attr{Name: a.Name, Value: "second"})
+	}
+	got, names := conds.Fill(l, text.String())
+	if got != want.String() || len(names) != 50000 || names[0] != "n50009" {
+		t.Errorf("%d bytes of %d, %d names", len(got), want.Len(), len(names))
+	}
+}
+
 // room: a list with spare room, and all that the room holds.
 func room(l []api.Attr) (list, whole []api.Attr) {
 	whole = append(slices.Clone(l), attrs("x=spare", "y=spare", "z=spare")...)
