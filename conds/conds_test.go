@@ -18,15 +18,8 @@ const (
 	within   = alphabet + "0123456789-"
 )
 
-// attrs reads attributes: each a name, =, and a value.
-func attrs(l ...string) []api.Attr {
-	var out []api.Attr
-	for _, s := range l {
-		name, value, _ := strings.Cut(s, "=")
-		out = append(out, api.Attr{Name: name, Value: value})
-	}
-	return out
-}
+// attrs is short, for tests that make attributes on nearly every line.
+var attrs = samples.Attrs
 
 // many: so many attributes that may be: their names rise, and all have two digits.
 func many(length int) []api.Attr {

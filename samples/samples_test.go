@@ -4,6 +4,7 @@ import (
 	"slices"
 	"testing"
 
+	"bindery/api"
 	"bindery/samples"
 )
 
@@ -23,5 +24,15 @@ func TestTexts(t *testing.T) {
 		if got := samples.Texts(c.signs, c.length); !slices.Equal(got, c.want) {
 			t.Errorf("Texts(%q, %d) = %q, not %q", c.signs, c.length, got, c.want)
 		}
+	}
+}
+
+func TestAttrs(t *testing.T) {
+	want := []api.Attr{{Name: "a", Value: "1"}, {Name: "b", Value: ""}, {Name: "c", Value: "=2"}, {Name: "", Value: "3"}, {Name: "d"}}
+	if got := samples.Attrs("a=1", "b=", "c==2", "=3", "d"); !slices.Equal(got, want) {
+		t.Errorf("%q, not %q", got, want)
+	}
+	if got := samples.Attrs(); len(got) != 0 {
+		t.Errorf("%q of none", got)
 	}
 }
